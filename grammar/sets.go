@@ -49,7 +49,7 @@ func (s set) kinds() []uint8 {
 // sets are one for each part; those of other numbers are empty.
 type sets [256]set
 
-// These hold nothing until once has built them, so who reads them asks once first.
+// FIRST and FOLLOW worked out from the rules; the functions of parts.go tell the same. The arrays hold nothing until once has built them, so they are read by built alone.
 var (
 	once     sync.Once
 	firstOf  sets
@@ -60,6 +60,12 @@ func build() {
 	rules := all()
 	firstOf = firsts(rules)
 	followOf = follows(rules, firstOf)
+}
+
+// built is the two arrays.
+func built() (first, follow sets) {
+	once.Do(build)
+	return firstOf, followOf
 }
 
 // isKind tells whether a symbol of a rule is the kind of a token.
